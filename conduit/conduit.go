@@ -1,0 +1,63 @@
+// Package conduit: an agent that sends batches on: see DOC.md.
+package conduit
+
+import (
+	"maps"
+
+	"conduit/api"
+)
+
+// Agent sends batches on.
+type Agent struct {
+	lasting
+	config   api.Config
+	now      int // milliseconds since Open
+	breakers []breaker
+}
+
+// Open makes an agent of a configuration and a log (P3, P10).
+func Open(c api.Config, log string) (*Agent, error) {
+	if !isConfig(c) {
+		return nil, api.ErrConfig
+	}
+	// No agent tells anything but an empty log as yet, so other texts are none.
+	if log != "" {
+		return nil, api.ErrLog
+	}
+	return newAgent(c), nil
+}
+
+// newAgent makes an agent that has taken nothing, at the time 0.
+func newAgent(c api.Config) *Agent {
+	// The map stays its owner's, who may change it behind Open.
+	c.Quanta = maps.Clone(c.Quanta)
+	return &Agent{
+		lasting:  newLasting(),
+		config:   c,
+		breakers: newBreakers(c),
+	}
+}
+
+// Submit hands a batch in (P4).
+func (a *Agent) Submit(b api.Batch) error { return nil }
+
+// Tick lets time go by (P5).
+func (a *Agent) Tick(ms int, draw int) ([]api.Send, error) { return nil, nil }
+
+// Reply says how a send has ended (P6).
+func (a *Agent) Reply(destination int, try int, good bool, draw int) error { return nil }
+
+// Status tells what has become of a batch (P9).
+func (a *Agent) Status(id string) (api.Status, error) { return api.Status{}, nil }
+
+// Dead tells the ids of what has failed too often (P9).
+func (a *Agent) Dead() []string { return nil }
+
+// Waiting tells how many pending batches each tenant has (P9).
+func (a *Agent) Waiting() map[string]int { return nil }
+
+// Log tells the log (P10).
+func (a *Agent) Log() string { return "" }
+
+// Compact writes the log anew (P10).
+func (a *Agent) Compact() {}
