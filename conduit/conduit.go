@@ -11,7 +11,8 @@ import (
 type Agent struct {
 	lasting
 	config   api.Config
-	now      int // milliseconds since Open
+	now      int     // milliseconds since Open
+	retries  []retry // of each batch in taken, at the same place
 	breakers []breaker
 }
 
@@ -39,7 +40,13 @@ func newAgent(c api.Config) *Agent {
 }
 
 // Submit hands a batch in (P4).
-func (a *Agent) Submit(b api.Batch) error { return nil }
+func (a *Agent) Submit(b api.Batch) error {
+	if err := a.refusal(b); err != nil {
+		return err
+	}
+	a.admit(b)
+	return nil
+}
 
 // Tick lets time go by (P5).
 func (a *Agent) Tick(ms int, draw int) ([]api.Send, error) { return nil, nil }
@@ -48,13 +55,19 @@ func (a *Agent) Tick(ms int, draw int) ([]api.Send, error) { return nil, nil }
 func (a *Agent) Reply(destination int, try int, good bool, draw int) error { return nil }
 
 // Status tells what has become of a batch (P9).
-func (a *Agent) Status(id string) (api.Status, error) { return api.Status{}, nil }
+func (a *Agent) Status(id string) (api.Status, error) {
+	place := a.place(id)
+	if place < 0 {
+		return api.Status{}, api.ErrID
+	}
+	return a.taken[place].Status, nil
+}
 
 // Dead tells the ids of what has failed too often (P9).
-func (a *Agent) Dead() []string { return nil }
+func (a *Agent) Dead() []string { return a.buried() }
 
 // Waiting tells how many pending batches each tenant has (P9).
-func (a *Agent) Waiting() map[string]int { return nil }
+func (a *Agent) Waiting() map[string]int { return a.waiting() }
 
 // Log tells the log (P10).
 func (a *Agent) Log() string { return "" }

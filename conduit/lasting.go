@@ -1,6 +1,10 @@
 package conduit
 
-import "conduit/api"
+import (
+	"slices"
+
+	"conduit/api"
+)
 
 // lane is where a batch goes and whose it is: each lane has a queue.
 type lane struct {
@@ -18,8 +22,42 @@ type batch struct {
 type lasting struct {
 	taken  []batch        // in the order in which they were taken
 	queues map[lane][]int // places in taken of what is pending, the head first
+	dead   []int          // places in taken, the one that died first first
 }
 
 func newLasting() lasting {
 	return lasting{queues: make(map[lane][]int)}
+}
+
+// place tells where in taken the batch of this id lies: below 0, if none does.
+func (l *lasting) place(id string) int {
+	return slices.IndexFunc(l.taken, func(b batch) bool { return b.ID == id })
+}
+
+// take lays a batch at the end of its queue.
+func (l *lasting) take(b api.Batch) {
+	key := lane{b.Destination, b.Tenant}
+	l.queues[key] = append(l.queues[key], len(l.taken))
+	l.taken = append(l.taken, batch{b, api.Status{State: api.Pending}})
+}
+
+// waiting counts each tenant's pending batches, to all destinations together.
+func (l *lasting) waiting() map[string]int {
+	counts := make(map[string]int)
+	for key, queue := range l.queues {
+		// A queue that has run empty must not bring its tenant in with a 0.
+		if len(queue) > 0 {
+			counts[key.tenant] += len(queue)
+		}
+	}
+	return counts
+}
+
+// buried tells the ids of the dead.
+func (l *lasting) buried() []string {
+	ids := make([]string, len(l.dead))
+	for i, place := range l.dead {
+		ids[i] = l.taken[place].ID
+	}
+	return ids
 }

@@ -1,0 +1,57 @@
+package conduit
+
+import (
+	"strings"
+
+	"conduit/api"
+)
+
+// retry is when a pending batch may go again. It does not last: behind Open
+// each of them begins anew.
+type retry struct {
+	from  int // the time from which on it may go
+	pause int
+}
+
+// refusal is why a batch is not taken, or nil. The cases stand in the order of
+// the document, since the first one that holds is the answer.
+func (a *Agent) refusal(b api.Batch) error {
+	_, known := a.config.Quanta[b.Tenant]
+	length := bounded{len(b.ID), 1, api.MaxName}
+	switch {
+	case !a.hasDestination(b.Destination):
+		return api.ErrDestination
+	case !known:
+		return api.ErrTenant
+	case !length.holds():
+		return api.ErrID
+	case len(b.Body) > api.MaxBody:
+		return api.ErrLong
+	case a.place(b.ID) >= 0:
+		return api.ErrTwice
+	case len(a.taken) >= api.MaxIDs:
+		return api.ErrFull
+	case a.waiting()[b.Tenant] >= a.config.Quota:
+		return api.ErrQuota
+	}
+	return nil
+}
+
+func (a *Agent) hasDestination(destination int) bool {
+	return 0 <= destination && destination < a.config.Destinations
+}
+
+// admit takes a batch that nothing speaks against.
+func (a *Agent) admit(b api.Batch) {
+	a.take(ownBatch(b))
+	a.retries = append(a.retries, retry{from: a.now, pause: a.config.Base})
+}
+
+// ownBatch copies the texts too: each may be a small piece of a large one that
+// the caller has, which would be kept whole with it.
+func ownBatch(b api.Batch) api.Batch {
+	b.Tenant = strings.Clone(b.Tenant)
+	b.ID = strings.Clone(b.ID)
+	b.Body = strings.Clone(b.Body)
+	return b
+}
