@@ -2,6 +2,8 @@ package conduit
 
 import (
 	"maps"
+	"math"
+	"slices"
 	"testing"
 
 	"conduit/api"
@@ -40,8 +42,27 @@ func TestNewAgentHasTakenNothing(t *testing.T) {
 	if a.now != 0 {
 		t.Errorf("P3: a new agent is at the time %d", a.now)
 	}
-	if len(a.breakers) != 4 {
-		t.Errorf("P3: a new agent of 4 destinations has %d breakers", len(a.breakers))
+	if len(a.outlets) != 4 {
+		t.Errorf("P3: a new agent has %d destinations; want 4", len(a.outlets))
+	}
+	for i, o := range a.outlets {
+		if o.isBusy() || o.sends != 0 || o.tripped || o.results != 0 || o.failures != 0 || o.turn != 0 || !slices.Equal(o.credits, []int{0, 0}) {
+			t.Errorf("P3: destination %d of a new agent is %+v", i, o)
+		}
+	}
+}
+
+func TestNamesStandByTheirBytes(t *testing.T) {
+	want := []string{"\x00", "B", "a", "a\x00", "aa", "b", "\u00e9", "\xff"}
+	for range 20 {
+		c := wideConfig()
+		c.Quanta = make(map[string]int)
+		for _, name := range want {
+			c.Quanta[name] = 64
+		}
+		if got := open(t, c).names; !slices.Equal(got, want) {
+			t.Fatalf("P8: the names stand as %q; want %q", got, want)
+		}
 	}
 }
 
@@ -69,27 +90,26 @@ func TestAgentsOfOneMapDoNotTouch(t *testing.T) {
 
 func TestBreakerThinksOfTheQuotient(t *testing.T) {
 	for _, row := range []struct {
-		threshold                float64
-		least, failures, results int
-		want                     bool
+		threshold         float64
+		failures, divisor int
+		want              bool
 	}{
-		{0.75, 2, 1, 1, false},
-		{0.75, 2, 2, 2, true},
-		{0.75, 2, 1, 2, false},
-		{0.75, 2, 2, 3, false},
-		{0.75, 2, 3, 4, true},
-		{1, 1, 1, 1, true},
-		{1, 1, 63, 64, false},
-		{1.0 / 3, 1, 1, 3, true},
-		{5e-324, 1, 0, 64, false},
-		{5e-324, 1, 1, 64, true},
-		{0.5, 1, 0, 0, false},
+		{0.75, 3, 4, true},
+		{0.75, 2, 3, false},
+		{0.75, 1, 1, true},
+		{1, 64, 64, true},
+		{1, 63, 64, false},
+		{1.0 / 3, 1, 3, true},
+		{math.Nextafter(1.0/3, 1), 1, 3, false},
+		{0.1, 6, 60, true},
+		{math.SmallestNonzeroFloat64, 0, 64, false},
+		{math.SmallestNonzeroFloat64, 1, 64, true},
 	} {
 		c := wideConfig()
-		c.Window, c.Least, c.Threshold = 64, row.least, row.threshold
-		for i, b := range open(t, c).breakers {
-			if got := b.trips(row.failures, row.results); got != row.want {
-				t.Errorf("breaker %d of Least %d, Threshold %v: trips(%d, %d) = %t", i, row.least, row.threshold, row.failures, row.results, got)
+		c.Threshold = row.threshold
+		for i, o := range open(t, c).outlets {
+			if got := o.tooMany(float64(row.failures) / float64(row.divisor)); got != row.want {
+				t.Errorf("P7: breaker %d of the threshold %v thinks %t of %d / %d", i, row.threshold, got, row.failures, row.divisor)
 			}
 		}
 	}

@@ -115,6 +115,11 @@ func told(t *testing.T, seed int64) string {
 		if err := a.Submit(b); err != nil {
 			text.WriteString(err.Error() + "\n")
 		}
+		sends, _ := a.Tick(r.Intn(30), r.Intn(100))
+		for _, s := range sends {
+			text.WriteString(strconv.Itoa(s.Destination) + "," + strconv.Itoa(s.Try) + "," + s.ID + "," + s.Body + "\n")
+			a.Reply(s.Destination, s.Try-r.Intn(2), r.Intn(2) == 0, r.Intn(100))
+		}
 		status, _ := a.Status(b.ID)
 		text.WriteString(strconv.Itoa(status.State) + strconv.Itoa(a.Waiting()[b.Tenant]) + "\n")
 	}
@@ -152,6 +157,7 @@ func callAny(t *testing.T, r *rand.Rand, a *conduit.Agent) {
 		}
 	case 1:
 		a.Reply(anyNumber(r), anyNumber(r), r.Intn(2) == 0, anyNumber(r))
+		a.Reply(r.Intn(4), 1+r.Intn(4), r.Intn(2) == 0, r.Intn(1000))
 	case 2:
 		if status, err := a.Status(anyBatch(r).ID); (status == api.Status{}) != (err != nil) {
 			t.Errorf("P1: Status answered %+v beside %v", status, err)

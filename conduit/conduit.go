@@ -3,6 +3,7 @@ package conduit
 
 import (
 	"maps"
+	"slices"
 
 	"conduit/api"
 )
@@ -10,10 +11,11 @@ import (
 // Agent sends batches on.
 type Agent struct {
 	lasting
-	config   api.Config
-	now      int     // milliseconds since Open
-	retries  []retry // of each batch in taken, at the same place
-	breakers []breaker
+	config  api.Config
+	names   []string // of the tenants, the one that is least by bytes first
+	now     int      // milliseconds since Open
+	retries []retry  // of each batch in taken, at the same place
+	outlets []outlet // of each destination
 }
 
 // Open makes an agent of a configuration and a log (P3, P10).
@@ -33,9 +35,10 @@ func newAgent(c api.Config) *Agent {
 	// The map stays its owner's, who may change it behind Open.
 	c.Quanta = maps.Clone(c.Quanta)
 	return &Agent{
-		lasting:  newLasting(),
-		config:   c,
-		breakers: newBreakers(c),
+		lasting: newLasting(),
+		config:  c,
+		names:   slices.Sorted(maps.Keys(c.Quanta)),
+		outlets: newOutlets(c),
 	}
 }
 
@@ -49,15 +52,34 @@ func (a *Agent) Submit(b api.Batch) error {
 }
 
 // Tick lets time go by (P5).
-func (a *Agent) Tick(ms int, draw int) ([]api.Send, error) { return nil, nil }
+func (a *Agent) Tick(ms int, draw int) ([]api.Send, error) {
+	step := bounded{ms, 0, api.MaxTime}
+	if !step.holds() || draw < 0 {
+		return nil, api.ErrRange
+	}
+	a.now += ms
+	a.giveUp(draw)
+	return a.sendOut(), nil
+}
 
 // Reply says how a send has ended (P6).
-func (a *Agent) Reply(destination int, try int, good bool, draw int) error { return nil }
+func (a *Agent) Reply(destination int, try int, good bool, draw int) error {
+	switch {
+	case !a.hasDestination(destination):
+		return api.ErrDestination
+	case draw < 0:
+		return api.ErrRange
+	case !a.outlets[destination].isUnderWay(try):
+		return api.ErrStale
+	}
+	a.settle(destination, good, draw)
+	return nil
+}
 
 // Status tells what has become of a batch (P9).
 func (a *Agent) Status(id string) (api.Status, error) {
 	place := a.place(id)
-	if place < 0 {
+	if place == none {
 		return api.Status{}, api.ErrID
 	}
 	return a.taken[place].Status, nil

@@ -29,16 +29,17 @@ func newLasting() lasting {
 	return lasting{queues: make(map[lane][]int)}
 }
 
-// place tells where in taken the batch of this id lies: below 0, if none does.
+// place tells where in taken the batch of this id lies: none, if none does.
 func (l *lasting) place(id string) int {
 	return slices.IndexFunc(l.taken, func(b batch) bool { return b.ID == id })
 }
 
-// take lays a batch at the end of its queue.
-func (l *lasting) take(b api.Batch) {
-	key := lane{b.Destination, b.Tenant}
-	l.queues[key] = append(l.queues[key], len(l.taken))
-	l.taken = append(l.taken, batch{b, api.Status{State: api.Pending}})
+// head tells the place of the batch at the head of a queue, if there is one.
+func (l *lasting) head(key lane) int {
+	if queue := l.queues[key]; len(queue) > 0 {
+		return queue[0]
+	}
+	return none
 }
 
 // waiting counts each tenant's pending batches, to all destinations together.

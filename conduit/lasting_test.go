@@ -19,19 +19,18 @@ func submit(t *testing.T, a *Agent, b api.Batch, want error) {
 	}
 }
 
-// finish lets a batch be acked or die, without a send.
+// finish lets a batch be acked or die, without a send, by what happened to it.
 func finish(t *testing.T, a *Agent, id string, end api.Status) {
 	t.Helper()
 	place := a.place(id)
-	if place < 0 {
+	if place == none {
 		t.Fatalf("no batch %q was taken", id)
 	}
-	b := &a.taken[place]
-	b.Status = end
-	key := lane{b.Destination, b.Tenant}
-	a.queues[key] = slices.DeleteFunc(a.queues[key], func(p int) bool { return p == place })
+	a.play(event{kind: hasFailed, place: place})
 	if end.State == api.Dead {
-		a.dead = append(a.dead, place)
+		a.play(event{kind: hasDied, place: place})
+	} else {
+		a.play(event{kind: wasAcked, place: place})
 	}
 }
 
@@ -199,13 +198,18 @@ func spoil(list []string) {
 	}
 }
 
-// kept is a copy of all that a Submit could change.
+// kept is a copy of all that a call could change.
 func kept(a *Agent) []any {
 	queues := make(map[lane][]int)
 	for key, queue := range a.queues {
 		queues[key] = slices.Clone(queue)
 	}
-	return []any{slices.Clone(a.taken), queues, slices.Clone(a.dead), slices.Clone(a.retries), a.now, maps.Clone(a.config.Quanta)}
+	outlets := slices.Clone(a.outlets)
+	for i := range outlets {
+		outlets[i].credits = slices.Clone(outlets[i].credits)
+		outlets[i].tooMany = nil // functions are never the same
+	}
+	return []any{slices.Clone(a.taken), queues, slices.Clone(a.dead), slices.Clone(a.retries), outlets, a.now, maps.Clone(a.config.Quanta), slices.Clone(a.names)}
 }
 
 // The errors come from a new agent, from one whose tenant "a" is at its quota,

@@ -27,7 +27,7 @@ func (a *Agent) refusal(b api.Batch) error {
 		return api.ErrID
 	case len(b.Body) > api.MaxBody:
 		return api.ErrLong
-	case a.place(b.ID) >= 0:
+	case a.place(b.ID) != none:
 		return api.ErrTwice
 	case len(a.taken) >= api.MaxIDs:
 		return api.ErrFull
@@ -43,7 +43,7 @@ func (a *Agent) hasDestination(destination int) bool {
 
 // admit takes a batch that nothing speaks against.
 func (a *Agent) admit(b api.Batch) {
-	a.take(ownBatch(b))
+	a.play(event{kind: wasTaken, batch: ownBatch(b)})
 	a.retries = append(a.retries, retry{from: a.now, pause: a.config.Base})
 }
 

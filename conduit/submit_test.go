@@ -216,49 +216,6 @@ func TestSubmitNamesTheFirstError(t *testing.T) {
 	expectWaiting(t, a, map[string]int{"a": 60, "b": 60})
 }
 
-// shadow is what the document says of Submit, written down another way: an agent
-// that forgets nothing, and looks through all of it.
-type shadow struct {
-	config api.Config
-	taken  []api.Batch
-}
-
-func (s *shadow) submit(b api.Batch) error {
-	pending, twice := 0, false
-	for _, other := range s.taken {
-		twice = twice || other.ID == b.ID
-		if other.Tenant == b.Tenant {
-			pending++
-		}
-	}
-	for _, row := range []struct {
-		holds bool
-		err   error
-	}{
-		{b.Destination < 0 || b.Destination >= s.config.Destinations, api.ErrDestination},
-		{s.config.Quanta[b.Tenant] == 0, api.ErrTenant},
-		{b.ID == "" || len(b.ID) > 16, api.ErrID},
-		{len(b.Body) > 63, api.ErrLong},
-		{twice, api.ErrTwice},
-		{len(s.taken) == 120, api.ErrFull},
-		{pending == s.config.Quota, api.ErrQuota},
-	} {
-		if row.holds {
-			return row.err
-		}
-	}
-	s.taken = append(s.taken, b)
-	return nil
-}
-
-func (s *shadow) waiting() map[string]int {
-	counts := make(map[string]int)
-	for _, b := range s.taken {
-		counts[b.Tenant]++
-	}
-	return counts
-}
-
 // anyBatch draws one that is mostly right, or only just wrong.
 func anyBatch(r *rand.Rand) api.Batch {
 	b := api.Batch{
@@ -285,7 +242,7 @@ func TestSubmitsAgainstTheShadow(t *testing.T) {
 		r := rand.New(rand.NewSource(int64(seed)))
 		c := roomy()
 		c.Destinations, c.Quota, c.Quanta = 1+r.Intn(4), 1+r.Intn(60), tenants(1+r.Intn(4))
-		a, s := agentOf(t, c), &shadow{config: c}
+		a, s := agentOf(t, c), newShadow(c)
 		for range 400 {
 			b := anyBatch(r)
 			expectSubmit(t, a, b, s.submit(b))
