@@ -23,11 +23,11 @@ func Open(c api.Config, log string) (*Agent, error) {
 	if !isConfig(c) {
 		return nil, api.ErrConfig
 	}
-	// No agent tells anything but an empty log as yet, so other texts are none.
-	if log != "" {
+	a := newAgent(c)
+	if !a.replay(log) {
 		return nil, api.ErrLog
 	}
-	return newAgent(c), nil
+	return a, nil
 }
 
 // newAgent makes an agent that has taken nothing, at the time 0.
@@ -58,7 +58,8 @@ func (a *Agent) Tick(ms int, draw int) ([]api.Send, error) {
 		return nil, api.ErrRange
 	}
 	a.now += ms
-	a.giveUp(draw)
+	// All that fails in one Tick is one record: a crash parts it from nothing.
+	a.record(a.giveUp(draw)...)
 	return a.sendOut(), nil
 }
 
@@ -72,7 +73,7 @@ func (a *Agent) Reply(destination int, try int, good bool, draw int) error {
 	case !a.outlets[destination].isUnderWay(try):
 		return api.ErrStale
 	}
-	a.settle(destination, good, draw)
+	a.record(a.settle(destination, good, draw))
 	return nil
 }
 
@@ -92,7 +93,7 @@ func (a *Agent) Dead() []string { return a.buried() }
 func (a *Agent) Waiting() map[string]int { return a.waiting() }
 
 // Log tells the log (P10).
-func (a *Agent) Log() string { return "" }
+func (a *Agent) Log() string { return a.log }
 
 // Compact writes the log anew (P10).
-func (a *Agent) Compact() {}
+func (a *Agent) Compact() { a.rewrite() }

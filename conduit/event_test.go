@@ -11,7 +11,7 @@ import (
 
 func TestWhatEachKindOfEventDoes(t *testing.T) {
 	l := newLasting()
-	for i := range 3 {
+	for i := range 4 {
 		l.play(event{kind: wasTaken, batch: api.Batch{Destination: 1, Tenant: "a", ID: strconv.Itoa(i)}})
 	}
 	for _, row := range []struct {
@@ -20,11 +20,12 @@ func TestWhatEachKindOfEventDoes(t *testing.T) {
 		queue []int
 		dead  []int
 	}{
-		{event{kind: hasFailed, place: 0}, api.Status{State: api.Pending, Failed: 1}, []int{0, 1, 2}, nil},
-		{event{kind: hasFailed, place: 0}, api.Status{State: api.Pending, Failed: 2}, []int{0, 1, 2}, nil},
-		{event{kind: wasAcked, place: 1}, api.Status{State: api.Acked}, []int{0, 2}, nil},
-		{event{kind: hasDied, place: 2}, api.Status{State: api.Dead, Failed: 1}, []int{0}, []int{2}},
-		{event{kind: hasDied, place: 0}, api.Status{State: api.Dead, Failed: 3}, []int{}, []int{2, 0}},
+		{event{kind: hasFailed, place: 0, failures: 1}, api.Status{State: api.Pending, Failed: 1}, []int{0, 1, 2, 3}, nil},
+		{event{kind: hasFailed, place: 0, failures: 4}, api.Status{State: api.Pending, Failed: 5}, []int{0, 1, 2, 3}, nil},
+		{event{kind: wasAcked, place: 1}, api.Status{State: api.Acked}, []int{0, 2, 3}, nil},
+		{event{kind: hasDied, place: 2, failures: 1}, api.Status{State: api.Dead, Failed: 1}, []int{0, 3}, []int{2}},
+		{event{kind: hasDied, place: 0, failures: 2}, api.Status{State: api.Dead, Failed: 7}, []int{3}, []int{2, 0}},
+		{event{kind: wasAcked, place: 3, failures: 9}, api.Status{State: api.Acked, Failed: 9}, []int{}, []int{2, 0}},
 	} {
 		l.play(row.e)
 		if got := l.taken[row.e.place].Status; got != row.want {

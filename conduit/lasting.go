@@ -23,6 +23,7 @@ type lasting struct {
 	taken  []batch        // in the order in which they were taken
 	queues map[lane][]int // places in taken of what is pending, the head first
 	dead   []int          // places in taken, the one that died first first
+	log    string         // records that lead to all of this, see record.go
 }
 
 func newLasting() lasting {
@@ -52,6 +53,40 @@ func (l *lasting) waiting() map[string]int {
 		}
 	}
 	return counts
+}
+
+// record does what one call brought about, and adds it to the log.
+func (l *lasting) record(events ...event) {
+	for _, e := range events {
+		l.play(e)
+	}
+	l.log += written(byCall, events)
+}
+
+// rewrite puts a short way to what lasts now in the place of the log.
+func (l *lasting) rewrite() {
+	l.log = written(byCompact, l.shortWay())
+}
+
+// shortWay leads from nothing to what lasts now, by two events a batch at most.
+func (l *lasting) shortWay() []event {
+	var way []event
+	for _, b := range l.taken {
+		way = append(way, event{kind: wasTaken, batch: b.Batch})
+	}
+	for place, b := range l.taken {
+		switch {
+		case b.State == api.Acked:
+			way = append(way, event{kind: wasAcked, place: place, failures: b.Failed})
+		case b.State == api.Pending && b.Failed > 0:
+			way = append(way, event{kind: hasFailed, place: place, failures: b.Failed})
+		}
+	}
+	// The dead come by themselves, since their order is one of its own.
+	for _, place := range l.dead {
+		way = append(way, event{kind: hasDied, place: place, failures: l.taken[place].Failed})
+	}
+	return way
 }
 
 // buried tells the ids of the dead.

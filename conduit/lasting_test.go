@@ -26,11 +26,11 @@ func finish(t *testing.T, a *Agent, id string, end api.Status) {
 	if place == none {
 		t.Fatalf("no batch %q was taken", id)
 	}
-	a.play(event{kind: hasFailed, place: place})
+	a.record(event{kind: hasFailed, place: place, failures: 1})
 	if end.State == api.Dead {
-		a.play(event{kind: hasDied, place: place})
+		a.record(event{kind: hasDied, place: place, failures: 1})
 	} else {
-		a.play(event{kind: wasAcked, place: place})
+		a.record(event{kind: wasAcked, place: place})
 	}
 }
 
@@ -209,7 +209,7 @@ func kept(a *Agent) []any {
 		outlets[i].credits = slices.Clone(outlets[i].credits)
 		outlets[i].tooMany = nil // functions are never the same
 	}
-	return []any{slices.Clone(a.taken), queues, slices.Clone(a.dead), slices.Clone(a.retries), outlets, a.now, maps.Clone(a.config.Quanta), slices.Clone(a.names)}
+	return []any{slices.Clone(a.taken), queues, slices.Clone(a.dead), a.log, slices.Clone(a.retries), outlets, a.now, maps.Clone(a.config.Quanta), slices.Clone(a.names)}
 }
 
 // The errors come from a new agent, from one whose tenant "a" is at its quota,

@@ -2,14 +2,17 @@ package conduit
 
 import "conduit/api"
 
-// giveUp lets each send fail that has been under way for too long.
-func (a *Agent) giveUp(draw int) {
+// giveUp ends each send that has been under way for too long, and tells what
+// that makes of the batches.
+func (a *Agent) giveUp(draw int) []event {
+	var events []event
 	for d := range a.outlets {
 		o := &a.outlets[d]
 		if o.isBusy() && a.now-o.began >= a.config.Timeout {
-			a.settle(d, false, draw)
+			events = append(events, a.settle(d, false, draw))
 		}
 	}
+	return events
 }
 
 // sendOut sends what can be sent now, to each destination one at most.
@@ -54,27 +57,26 @@ func (a *Agent) sizeToGo(key lane) int {
 	return len(a.taken[place].Body) + 1
 }
 
-// settle ends the send that is under way to a destination (P6).
-func (a *Agent) settle(destination int, good bool, draw int) {
+// settle ends the send that is under way to a destination (P6), and tells what
+// that makes of its batch.
+func (a *Agent) settle(destination int, good bool, draw int) event {
 	o := &a.outlets[destination]
 	place := o.finish()
-	if good {
-		a.play(event{kind: wasAcked, place: place})
-	} else {
-		a.lose(place, draw)
-	}
 	o.hear(good, a.config, a.now)
+	if good {
+		return event{kind: wasAcked, place: place}
+	}
+	return a.lose(place, draw)
 }
 
-// lose lets a batch fail.
-func (a *Agent) lose(place, draw int) {
+// lose tells what one failure more makes of a batch: it waits, or dies.
+func (a *Agent) lose(place, draw int) event {
 	if a.taken[place].Failed+1 >= a.config.Attempts {
-		a.play(event{kind: hasDied, place: place})
-		return
+		return event{kind: hasDied, place: place, failures: 1}
 	}
-	a.play(event{kind: hasFailed, place: place})
 	pause := nextPause(a.retries[place].pause, draw, a.config)
 	a.retries[place] = retry{from: a.now + pause, pause: pause}
+	return event{kind: hasFailed, place: place, failures: 1}
 }
 
 // nextPause draws the pause behind a failure from the one before it.

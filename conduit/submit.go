@@ -1,10 +1,6 @@
 package conduit
 
-import (
-	"strings"
-
-	"conduit/api"
-)
+import "conduit/api"
 
 // retry is when a pending batch may go again. It does not last: behind Open
 // each of them begins anew.
@@ -13,9 +9,21 @@ type retry struct {
 	pause int
 }
 
-// refusal is why a batch is not taken, or nil. The cases stand in the order of
-// the document, since the first one that holds is the answer.
+// refusal is why a batch is not taken, or nil.
 func (a *Agent) refusal(b api.Batch) error {
+	if err := a.misfit(b); err != nil {
+		return err
+	}
+	if a.waiting()[b.Tenant] >= a.config.Quota {
+		return api.ErrQuota
+	}
+	return nil
+}
+
+// misfit is why a batch could not be taken even by an agent with nothing
+// pending, or nil. The cases stand in the order of the document, since the
+// first one that holds is the answer.
+func (a *Agent) misfit(b api.Batch) error {
 	_, known := a.config.Quanta[b.Tenant]
 	length := bounded{len(b.ID), 1, api.MaxName}
 	switch {
@@ -31,8 +39,6 @@ func (a *Agent) refusal(b api.Batch) error {
 		return api.ErrTwice
 	case len(a.taken) >= api.MaxIDs:
 		return api.ErrFull
-	case a.waiting()[b.Tenant] >= a.config.Quota:
-		return api.ErrQuota
 	}
 	return nil
 }
@@ -43,15 +49,6 @@ func (a *Agent) hasDestination(destination int) bool {
 
 // admit takes a batch that nothing speaks against.
 func (a *Agent) admit(b api.Batch) {
-	a.play(event{kind: wasTaken, batch: ownBatch(b)})
+	a.record(event{kind: wasTaken, batch: b})
 	a.retries = append(a.retries, retry{from: a.now, pause: a.config.Base})
-}
-
-// ownBatch copies the texts too: each may be a small piece of a large one that
-// the caller has, which would be kept whole with it.
-func ownBatch(b api.Batch) api.Batch {
-	b.Tenant = strings.Clone(b.Tenant)
-	b.ID = strings.Clone(b.ID)
-	b.Body = strings.Clone(b.Body)
-	return b
 }

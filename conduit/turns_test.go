@@ -224,7 +224,11 @@ func TestSharesOfTheBytes(t *testing.T) {
 			quanta[name] = 64 + r.Intn([]int{1, 10, 937}[r.Intn(3)])
 		}
 		a := agentOf(t, of(quanta))
-		shares := sharesOf(t, r, a, quanta)
+		handThirds(t, r, a)
+		if seed%4 == 0 {
+			a = reopen(t, of(quanta), a.Log())
+		}
+		shares := sharesOf(t, a, quanta)
 		for from := range shares {
 			for to := from; to < len(shares); to++ {
 				if far := apart(shares[from], shares[to]); far >= 3 {
@@ -235,13 +239,18 @@ func TestSharesOfTheBytes(t *testing.T) {
 	}
 }
 
-// sharesOf sends as long as each tenant may go, and tells behind each send what
-// part of its quantum each tenant has sent.
-func sharesOf(t *testing.T, r *rand.Rand, a *conduit.Agent, quanta map[string]int) [][3]float64 {
+// handThirds hands in all that can be, a third of it of each tenant.
+func handThirds(t *testing.T, r *rand.Rand, a *conduit.Agent) {
 	t.Helper()
 	for i := range 120 {
 		hand(t, a, 0, []string{"a", "b", "c"}[i%3], strconv.Itoa(i), 1+r.Intn(64))
 	}
+}
+
+// sharesOf sends as long as each tenant may go, and tells behind each send what
+// part of its quantum each tenant has sent.
+func sharesOf(t *testing.T, a *conduit.Agent, quanta map[string]int) [][3]float64 {
+	t.Helper()
 	shares := [][3]float64{{}}
 	for len(a.Waiting()) == 3 {
 		sends, err := a.Tick(0, 0)
